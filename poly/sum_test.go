@@ -73,6 +73,7 @@ func TestSumOfAppendix(t *testing.T) {
 		if got := hex.EncodeToString(b); why != api.OK || got != c.want {
 			t.Errorf("P3.1: case %d: %v, %s, want %s", i+1, why, got, c.want)
 		}
+		look(t, "the appendix", unhex(t, c.first+c.second), unhex(t, c.b))
 	}
 }
 
