@@ -86,7 +86,7 @@ func TestOpenOfAppendix(t *testing.T) {
 	}
 }
 
-// sums are those that another program made, of each of the sizes beside (a row) with each of the sizes of texts (a place in it).
+// sums are those that OpenSSL's ChaCha20-Poly1305 makes, of each of the sizes beside (a row) with each of the sizes of texts (a place in it).
 var sums = [][]string{
 	{
 		"83dda710b50f80d8fcbab2bcbd0d2745",
@@ -191,7 +191,7 @@ var sums = [][]string{
 
 var sizes = []int{0, 1, 15, 16, 17, 63, 64, 65, 300}
 
-func TestSealAsAnotherProgram(t *testing.T) {
+func TestSealAsOpenSSL(t *testing.T) {
 	for i, row := range sums {
 		for j, want := range row {
 			key, nonce := counted(sizes[i], 32), counted(sizes[j], 12)
