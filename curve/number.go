@@ -97,7 +97,7 @@ func times(x, y number) number {
 	var product number
 	var over uint64
 	for at := range product {
-		sum := wide{low: over}
+		sum := wideSum{low: over}
 		for i := range x {
 			if i <= at {
 				sum.addProduct(x[i], y[at-i])
@@ -127,10 +127,10 @@ func inverse(x number) number {
 	return power
 }
 
-// wide is a sum of products of limbs. Five of them, four folded, and what the sum below left over stay below 2^109.
-type wide struct{ high, low uint64 }
+// wideSum is a sum of products of limbs. Five of them, four folded, and what the sum below left over stay below 2^109.
+type wideSum struct{ high, low uint64 }
 
-func (w *wide) addProduct(x, y uint64) {
+func (w *wideSum) addProduct(x, y uint64) {
 	high, low := bits.Mul64(x, y)
 	sum, over := bits.Add64(w.low, low, 0)
 	w.low = sum
