@@ -60,9 +60,9 @@ func (s *state) round(word uint32) {
 	turnedA := bits.RotateLeft32(a, -2) ^ bits.RotateLeft32(a, -13) ^ bits.RotateLeft32(a, -22)
 	choice := e&f ^ ^e&g
 	majority := a&b ^ a&c ^ b&c
-	lower := s[7] + turnedE + choice + word
-	s[7], s[6], s[5], s[4] = g, f, e, s[3]+lower
-	s[3], s[2], s[1], s[0] = c, b, a, lower+turnedA+majority
+	added := s[7] + turnedE + choice + word
+	s[7], s[6], s[5], s[4] = g, f, e, s[3]+added
+	s[3], s[2], s[1], s[0] = c, b, a, added+turnedA+majority
 }
 
 // spread makes of the sixteen words of a block as many as there are rounds.
