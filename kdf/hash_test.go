@@ -53,7 +53,7 @@ func wholeTalk() parts {
 	return parts{[]byte("SSH-2.0-client"), []byte("SSH-2.0-strongroom"), stepped(40, 20, 7), stepped(50, 20, 11), stepped(51, 0, 13), stepped(32, 9, 17), stepped(32, 130, 19)}
 }
 
-// TestHashOfWholeTalk: the answers were made by OpenSSL.
+// TestHashOfWholeTalk: the answers are sums by OpenSSL of parts that were framed apart from the program.
 func TestHashOfWholeTalk(t *testing.T) {
 	talk := wholeTalk().talk()
 	look(t, "Hash", kdf.Hash(talk, unhex(t, lowSecret)), "361dec86911695b548c9fe751c5d18e6c6908f0b1ebb88d4f7a42a5a211685cc")
@@ -70,7 +70,7 @@ func TestHashOfNothing(t *testing.T) {
 	look(t, "Hash of the secret 0", kdf.Hash(kdf.Talk{}, make([]byte, 32)), want)
 }
 
-// TestHashOfAnEmptyPart: the answers were made by OpenSSL.
+// TestHashOfAnEmptyPart: the answers were made in the same way.
 func TestHashOfAnEmptyPart(t *testing.T) {
 	for i, want := range []string{
 		"ed6e8b48f5411d888041535452cf3037ab281036ac7c18f1fab9999dcd33ef71",
