@@ -1,6 +1,7 @@
 package kex_test
 
 import (
+	"crypto/ecdh"
 	"encoding/binary"
 	"fmt"
 	"math/rand"
@@ -76,6 +77,19 @@ func TestServerOfTextsOfOtherSizes(t *testing.T) {
 		mustRefuseInit(t, fmt.Sprintf("32 bytes that are said to be %d", size), bob(t), init, api.ErrForm)
 	}
 	mustRefuseInit(t, "two Texts of 16 bytes", bob(t), payload(30, make([]byte, 16), make([]byte, 16)), api.ErrForm)
+}
+
+// TestWeakPointsAreWeak: Go's own curve refuses them too.
+func TestWeakPointsAreWeak(t *testing.T) {
+	for _, point := range weakPoints {
+		public, err := ecdh.X25519().NewPublicKey(unhex(t, point))
+		if err != nil {
+			t.Fatal(err)
+		}
+		if k, err := privateKey(t, unhex(t, bobKey)).ECDH(public); err == nil {
+			t.Errorf("the point %s makes %x", point, k)
+		}
+	}
 }
 
 // TestServerOfWeakPoints: wrong forms of them are refused as such.
